@@ -28,8 +28,8 @@ func sixKeys() []string {
 	return []string{"a", "ab", "abcd", "b", "ba", "zzzz"}
 }
 
-// sameDeps takes an empty list and none for the same.
-func sameDeps(t *testing.T, what string, got []impl.Dep, want []impl.Dep) {
+// sameList takes an empty list and none for the same.
+func sameList[T comparable](t *testing.T, what string, got []T, want []T) {
 	t.Helper()
 	if !slices.Equal(got, want) {
 		t.Errorf("%s: got %+v, want %+v", what, got, want)
@@ -40,14 +40,14 @@ func sameDeps(t *testing.T, what string, got []impl.Dep, want []impl.Dep) {
 func told(t *testing.T, what string, got impl.DepsOut, want []impl.Dep) {
 	t.Helper()
 	same(t, what+": code", got.Code, impl.OK)
-	sameDeps(t, what, got.Deps, want)
+	sameList(t, what, got.Deps, want)
 }
 
 // refused is that a call told that code, and nothing else.
 func refused(t *testing.T, what string, got impl.DepsOut, code int64) {
 	t.Helper()
 	same(t, what+": code", got.Code, code)
-	sameDeps(t, what, got.Deps, nil)
+	sameList(t, what, got.Deps, nil)
 }
 
 // wrongDeps are lists of each kind that is not right, none of them too long to be handed in.
@@ -446,9 +446,9 @@ func TestDepsAreNewMemory(t *testing.T) {
 		for i := range full {
 			full[i] = dep("x", 9, 3, 9)
 		}
-		sameDeps(t, what+": a stays", a, keptA)
-		sameDeps(t, what+": b stays", b, keptB)
+		sameList(t, what+": a stays", a, keptA)
+		sameList(t, what+": b stays", b, keptB)
 	}
-	sameDeps(t, "nothing behind a", a[:cap(a)][2:], make([]impl.Dep, 7))
-	sameDeps(t, "nothing behind b", b[:cap(b)][2:], make([]impl.Dep, 7))
+	sameList(t, "nothing behind a", a[:cap(a)][2:], make([]impl.Dep, 7))
+	sameList(t, "nothing behind b", b[:cap(b)][2:], make([]impl.Dep, 7))
 }

@@ -204,7 +204,7 @@ func sameRec(t *testing.T, what string, got impl.Rec, want impl.Rec) {
 	same(t, what+": id", got.Id, want.Id)
 	same(t, what+": data", got.Data, want.Data)
 	same(t, what+": gone", got.Gone, want.Gone)
-	sameDeps(t, what, got.Deps, want.Deps)
+	sameList(t, what, got.Deps, want.Deps)
 	if !slices.Equal(got.Bundle, want.Bundle) {
 		t.Errorf("%s: got bundle %q, want %q", what, got.Bundle, want.Bundle)
 	}
@@ -293,13 +293,13 @@ func TestManyRecsComeBack(t *testing.T) {
 		if !rightSlowly(r) {
 			same(t, "no bytes", impl.RecBytes(r), "")
 			notRead(t, "not right, but sealed", text, impl.ErrSyntax)
-			sameDeps(t, "no needs", impl.Needs(r), nil)
+			sameList(t, "no needs", impl.Needs(r), nil)
 			continue
 		}
 		right++
 		same(t, "bytes", impl.RecBytes(r), text)
 		readBack(t, "back", text, r)
-		sameDeps(t, "needs", impl.Needs(r), needsSlowly(r))
+		sameList(t, "needs", impl.Needs(r), needsSlowly(r))
 	}
 	same(t, "some were right, and some were not", right > 1000 && right < 19000, true)
 }
@@ -463,21 +463,21 @@ func TestRecSameAsksForEachField(t *testing.T) {
 
 func TestNeeds(t *testing.T) {
 	r := plainRec()
-	sameDeps(t, "deps, and the other one of the bundle", impl.Needs(r), []impl.Dep{dep("ab", 64, 2, 1), dep("b", 63, 3, 99), dep("ccc", 1, 1, 0)})
+	sameList(t, "deps, and the other one of the bundle", impl.Needs(r), []impl.Dep{dep("ab", 64, 2, 1), dep("b", 63, 3, 99), dep("ccc", 1, 1, 0)})
 	r.Bundle = []string{"b"}
-	sameDeps(t, "alone", impl.Needs(r), r.Deps)
+	sameList(t, "alone", impl.Needs(r), r.Deps)
 	r.Bundle = []string{"b", "ccc"}
-	sameDeps(t, "of a key in both its own id", impl.Needs(r), []impl.Dep{dep("b", 63, 3, 99), dep("ccc", 64, 2, 1)})
+	sameList(t, "of a key in both its own id", impl.Needs(r), []impl.Dep{dep("b", 63, 3, 99), dep("ccc", 64, 2, 1)})
 	r.Deps = nil
-	sameDeps(t, "without deps", impl.Needs(r), depsOf(r.Id, "ccc"))
-	sameDeps(t, "none", impl.Needs(rightRecs()["least"]), nil)
+	sameList(t, "without deps", impl.Needs(r), depsOf(r.Id, "ccc"))
+	sameList(t, "none", impl.Needs(rightRecs()["least"]), nil)
 	for what, r := range rightRecs() {
 		got := impl.Needs(r)
-		sameDeps(t, what, got, needsSlowly(r))
+		sameList(t, what, got, needsSlowly(r))
 		same(t, what+": right", impl.DepsRight(got), true)
 	}
 	for what, r := range wrongRecs() {
-		sameDeps(t, "not right: "+what, impl.Needs(r), nil)
+		sameList(t, "not right: "+what, impl.Needs(r), nil)
 	}
 }
 
@@ -495,7 +495,7 @@ func TestRecsAreNewMemory(t *testing.T) {
 	first.Deps[0], first.Bundle[0] = dep("x", 9, 3, 9), "x"
 	sameRec(t, "what was handed in", r, plainRec())
 	sameRec(t, "what was told elsewhere", second, plainRec())
-	sameDeps(t, "nothing behind deps", r.Deps[:9][2:], make([]impl.Dep, 7))
+	sameList(t, "nothing behind deps", r.Deps[:9][2:], make([]impl.Dep, 7))
 	if !slices.Equal(r.Bundle[:9][2:], make([]string, 7)) {
 		t.Errorf("behind the bundle: %q", r.Bundle[:9])
 	}
