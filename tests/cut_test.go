@@ -267,13 +267,18 @@ func offerSlowly(t *testing.T, c impl.Cut, r impl.Rec) impl.CutOut {
 	if keysSlowly(slices.Concat(c.Rows, c.Wait, []impl.Rec{r})...) > impl.MaxKeys {
 		return impl.CutOut{Code: impl.ErrFull}
 	}
-	rows, wait := c.Rows, c.Wait
-	if isAbove(rows, r) && isAbove(wait, r) {
+	wait := c.Wait
+	if isAbove(c.Rows, r) && isAbove(wait, r) {
 		wait = inPlace(wait, r)
 	}
+	return comeSlowly(t, c.Rows, wait)
+}
+
+// comeSlowly lays on the shelf what waits, and may be seen.
+func comeSlowly(t *testing.T, rows []impl.Rec, wait []impl.Rec) impl.CutOut {
+	t.Helper()
 	var fresh []string
-	came := greatestSlowly(t, rows, wait)
-	for _, r := range came {
+	for _, r := range greatestSlowly(t, rows, wait) {
 		rows = inPlace(rows, r)
 		fresh = append(fresh, r.Key)
 	}
